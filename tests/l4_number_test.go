@@ -426,8 +426,8 @@ func TestNumberAtMaxCode(t *testing.T) {
 	}
 }
 
-// All code of two steps of each kind, and of three on two names and words at
-// the ends.
+// All pairs of the steps of oneOfEach, and all rows of three of some steps on
+// two names, with words at the ends.
 func TestNumberOfShortCode(t *testing.T) {
 	d := &lots{state: 4}
 	check := func(l []impl.Instr) {
