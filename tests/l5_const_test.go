@@ -742,7 +742,8 @@ func TestFactsOfManyFlows(t *testing.T) {
 	}
 }
 
-// All flows of two blocks over a few codes, from facts of each kind.
+// All flows of two blocks over a few codes, with one Test, from facts of each
+// kind.
 func TestFactsOfShortFlows(t *testing.T) {
 	var blocks []impl.Block
 	for _, text := range []string{"", "a=0", "a=1", "b=a", "a=a*b", "a=a~b"} {
