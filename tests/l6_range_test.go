@@ -898,7 +898,7 @@ func checkAllWordsIn(t *testing.T, f []impl.Block, first []impl.Range) {
 	ranges, _, _ := impl.FlowRanges(f, first)
 	for _, a := range wordsOf(first[0]) {
 		for _, b := range wordsOf(first[1]) {
-			// 20 blocks are enough to go through each with each small word.
+			// Short runs, since there are so many; drawn flows have long ones.
 			_, _, path, ahead, _ := runFlowApart(f, []int{a, b, 0, 0, 0, 0, 0, 0}, 20)
 			for step, at := range path {
 				inA, _ := impl.HasWord(ranges[at][0], ahead[step][0])
