@@ -768,11 +768,9 @@ func TestFactsOfShortFlows(t *testing.T) {
 	}
 }
 
-func TestWrongFlowsAreRefused(t *testing.T) {
-	checkFlowRefused(t, nil)
-	checkFlowRefused(t, []impl.Block{})
-	checkFlowRefused(t, make([]impl.Block, impl.MaxBlocks+1))
-	checkFlowRefused(t, make([]impl.Block, 1000))
+// wrongBlocks are none of a flow of three.
+func wrongBlocks(t *testing.T) []impl.Block {
+	t.Helper()
 	var wrong []impl.Block
 	for _, i := range wrongInstrs() {
 		wrong = append(wrong, impl.Block{Code: []impl.Instr{i}, Then: -1, Else: -1})
@@ -786,14 +784,26 @@ func TestWrongFlowsAreRefused(t *testing.T) {
 	for _, at := range []int{math.MinInt, -1 << 32, -3, -2, 3, 4, impl.MaxBlocks, 1 << 32, math.MaxInt} {
 		wrong = append(wrong, impl.Block{Then: at, Else: -1}, impl.Block{Then: -1, Else: at}, impl.Block{Then: at, Else: at})
 	}
+	return wrong
+}
+
+func wrongFlows(t *testing.T) [][]impl.Block {
+	t.Helper()
 	end := impl.Block{Then: -1, Else: -1}
-	for _, b := range wrong {
-		checkFlowRefused(t, []impl.Block{b, end, end})
-		checkFlowRefused(t, []impl.Block{end, b, end})
-		checkFlowRefused(t, []impl.Block{end, end, b})
+	wrong := [][]impl.Block{
+		nil, {}, make([]impl.Block, impl.MaxBlocks+1), make([]impl.Block, 1000),
+		{{Then: 1, Else: -1}}, {{Then: -1, Else: 1}},
 	}
-	checkFlowRefused(t, []impl.Block{{Then: 1, Else: -1}})
-	checkFlowRefused(t, []impl.Block{{Then: -1, Else: 1}})
+	for _, b := range wrongBlocks(t) {
+		wrong = append(wrong, []impl.Block{b, end, end}, []impl.Block{end, b, end}, []impl.Block{end, end, b})
+	}
+	return wrong
+}
+
+func TestWrongFlowsAreRefused(t *testing.T) {
+	for _, f := range wrongFlows(t) {
+		checkFlowRefused(t, f)
+	}
 }
 
 func TestRunFlowRefusesWrongWordsAndFuel(t *testing.T) {

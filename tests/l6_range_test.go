@@ -966,29 +966,14 @@ func TestFlowRangesRefusesEmptyOnes(t *testing.T) {
 
 func TestRangesRefuseWrongCodeAndFlows(t *testing.T) {
 	first := sameRange(allWords())
-	end := impl.Block{Then: -1, Else: -1}
-	wrong := []impl.Block{{Code: slices.Repeat(readAs(t, "a=1"), impl.MaxCode+1), Then: -1, Else: -1}}
-	checkStepRangesRefused(t, wrong[0].Code, first)
+	checkStepRangesRefused(t, slices.Repeat(readAs(t, "a=1"), impl.MaxCode+1), first)
 	for _, i := range append(wrongInstrs(), impl.Instr{}) {
 		checkStepRangesRefused(t, []impl.Instr{i}, first)
 		checkStepRangesRefused(t, append(readAs(t, "a=1;b=a"), i), first)
-		wrong = append(wrong, impl.Block{Code: []impl.Instr{i}, Then: -1, Else: -1})
 	}
-	for _, name := range []int{math.MinInt, -1, impl.MaxVars, 1 << 32, math.MaxInt} {
-		wrong = append(wrong, impl.Block{Test: name, Then: -1, Else: -1})
+	for _, f := range wrongFlows(t) {
+		checkRangesRefused(t, f, first)
 	}
-	for _, at := range []int{math.MinInt, -1 << 32, -2, 3, impl.MaxBlocks, 1 << 32, math.MaxInt} {
-		wrong = append(wrong, impl.Block{Then: at, Else: -1}, impl.Block{Then: -1, Else: at})
-	}
-	for _, b := range wrong {
-		checkRangesRefused(t, []impl.Block{b, end, end}, first)
-		checkRangesRefused(t, []impl.Block{end, b, end}, first)
-		checkRangesRefused(t, []impl.Block{end, end, b}, first)
-	}
-	checkRangesRefused(t, nil, first)
-	checkRangesRefused(t, []impl.Block{}, first)
-	checkRangesRefused(t, make([]impl.Block, impl.MaxBlocks+1), first)
-	checkRangesRefused(t, []impl.Block{{Then: 1, Else: -1}}, first)
 	checkRangesRefused(t, nil, nil)
 }
 
