@@ -973,7 +973,7 @@ func TestPlaysRefuseWrongLocals(t *testing.T) {
 	checkProgram(t, p, []int{65535, 65535, 65535})
 }
 
-// All code of up to four steps out of thirteen that leaves nothing on the
+// All code of up to four steps out of twelve that leaves nothing on the
 // stack, in each tier.
 func TestTiersOfAllShortCode(t *testing.T) {
 	is := [2]int{}
